@@ -37,23 +37,9 @@ func memoryPositions(nodes []int) []int {
 }
 
 func TestLookupMemory(t *testing.T) {
-	for _, original := range memorySets() {
-		for _, call := range lookupCalls(memoryPositions(original)) {
-			nodes, whole := roomy(original)
-			before := slices.Clone(whole)
-			got, again := call.do(nodes), call.do(nodes)
-			want := slices.Clone(again)
-			if !slices.Equal(got, want) {
-				t.Fatalf("%s of %v is %v, and then %v", call.name, original, got, want)
-			}
-			fill(got)
-			if !slices.Equal(whole, before) || !slices.Equal(again, want) {
-				t.Fatalf("%s of %v: the result shares memory with the argument or another result", call.name, original)
-			}
-			fill(whole)
-			if !slices.Equal(again, want) {
-				t.Fatalf("%s of %v: the result shares memory with the argument", call.name, original)
-			}
+	for _, nodes := range memorySets() {
+		for _, call := range lookupCalls(memoryPositions(nodes)) {
+			checkMemory(t, call.name, nodes, -99, call.do)
 		}
 	}
 }
@@ -62,32 +48,20 @@ func TestLookupMemory(t *testing.T) {
 func TestLookupEmptyMemory(t *testing.T) {
 	for _, nodes := range [][]int{nil, {20, 5}, {5, 20}} {
 		for _, call := range lookupCalls([]int{-1, impl.Circle}) {
-			first := append(call.do(nodes), 1)
-			second := append(call.do(nodes), 2)
-			if len(first) != 1 || len(second) != 1 || first[0] != 1 || second[0] != 2 {
-				t.Errorf("%s of %v: two empty results share memory or are not empty: %v, %v", call.name, nodes, first, second)
-			}
+			checkEmptyMemory(t, call.name, nodes, 1, 2, call.do)
 		}
 	}
 }
 
 func TestLookupUnmodified(t *testing.T) {
-	for _, original := range memorySets() {
-		nodes, whole := roomy(original)
-		want := slices.Clone(whole)
-		positions := memoryPositions(original)
+	for _, nodes := range memorySets() {
+		positions := memoryPositions(nodes)
 		for _, call := range lookupCalls(positions) {
-			call.do(nodes)
-			if !slices.Equal(whole, want) {
-				t.Fatalf("%s changed %v to %v", call.name, want, whole)
-			}
+			checkUnmodified(t, call.name, nodes, -99, func(nodes []int) { call.do(nodes) })
 		}
 		for _, id := range positions {
 			for _, key := range positions {
-				impl.LookupNext(nodes, id, key)
-				if !slices.Equal(whole, want) {
-					t.Fatalf("LookupNext changed %v to %v", want, whole)
-				}
+				checkUnmodified(t, "LookupNext", nodes, -99, func(nodes []int) { impl.LookupNext(nodes, id, key) })
 			}
 		}
 	}
